@@ -177,3 +177,17 @@ func shares(a, b string) bool {
 	second := uintptr(unsafe.Pointer(unsafe.StringData(b)))
 	return first < second+uintptr(len(b)) && second < first+uintptr(len(a))
 }
+
+// wantApart writes over one of two answers to the same question, also behind
+// its end: the other one must stay as it was.
+func wantApart[T comparable](t *testing.T, first, second []T, other T, what string) {
+	t.Helper()
+	want := slices.Clone(second)
+	first = first[:cap(first)]
+	for i := range first {
+		first[i] = other
+	}
+	if !slices.Equal(second, want) {
+		t.Errorf("two answers of %s share memory", what)
+	}
+}

@@ -32,14 +32,8 @@ func TestDecodeAnswersNewMemory(t *testing.T) {
 	for _, s := range memoryTexts() {
 		first, _ := impl.Decode(s)
 		second, _ := impl.Decode(s)
-		want := slices.Clone(second)
-		first = first[:cap(first)]
-		for i := range first {
-			first[i] = -1
-		}
-		if third, _ := impl.Decode(s); !slices.Equal(second, want) || !slices.Equal(third, want) {
-			t.Errorf("two answers of Decode of %s share memory", short(s))
-		}
+		wantApart(t, first, second, -1, "Decode of "+short(s))
+		wantDecode(t, s, second, impl.OK)
 	}
 }
 
@@ -55,19 +49,12 @@ func TestBreakAnswersNewMemory(t *testing.T) {
 	for _, s := range memoryTexts() {
 		first, _ := impl.Break(s)
 		second, _ := impl.Break(s)
-		want := slices.Clone(second)
 		for _, word := range first {
 			if shares(word.Text, s) {
 				t.Fatalf("Break of %s: %q lies in its argument", short(s), word.Text)
 			}
 		}
-		first = first[:cap(first)]
-		for i := range first {
-			first[i] = impl.Token{Text: "other", Pos: -1}
-		}
-		if !slices.Equal(second, want) {
-			t.Errorf("two answers of Break of %s share memory", short(s))
-		}
+		wantApart(t, first, second, impl.Token{Text: "other", Pos: -1}, "Break of "+short(s))
 	}
 }
 

@@ -1,6 +1,10 @@
 package tests
 
-import "fmt"
+import (
+	"fmt"
+
+	"loop.example/g00018/impl"
+)
 
 // short keeps a failure's line readable where the text has MaxText bytes.
 func short(s string) string {
@@ -15,4 +19,12 @@ func shortList(list []int) string {
 		return fmt.Sprint(list)
 	}
 	return fmt.Sprintf("%v.. (%d numbers)", list[:20], len(list))
+}
+
+func shortAnalyzer(a impl.Analyzer) string {
+	s := fmt.Sprintf("%+v", a)
+	if len(s) <= 200 {
+		return s
+	}
+	return fmt.Sprintf("%s.. (%d stop words, %d synonyms, grams %d to %d)", s[:200], len(a.Stops), len(a.Synonyms), a.Lo, a.Hi)
 }
