@@ -28,3 +28,10 @@ func shortAnalyzer(a impl.Analyzer) string {
 	}
 	return fmt.Sprintf("%s.. (%d stop words, %d synonyms, grams %d to %d)", s[:200], len(a.Stops), len(a.Synonyms), a.Lo, a.Hi)
 }
+
+func shortBytes(b []byte) string {
+	if len(b) <= 20 {
+		return fmt.Sprint(b)
+	}
+	return fmt.Sprintf("%v.. (%d bytes)", b[:20], len(b))
+}
